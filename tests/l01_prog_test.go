@@ -426,32 +426,35 @@ func TestParseProgRejects(t *testing.T) {
 	}
 }
 
+// oneByteEdits returns both cuts of text at each index, and text with each of
+// its bytes dropped, and each of the given bytes inserted or put for another.
+func oneByteEdits(text, bytes string) []string {
+	var edits []string
+	for i := 0; i <= len(text); i++ {
+		edits = append(edits, text[:i], text[i:])
+		for _, b := range []byte(bytes) {
+			edits = append(edits, text[:i]+string([]byte{b})+text[i:])
+			if i < len(text) {
+				edits = append(edits, text[:i]+string([]byte{b})+text[i+1:])
+			}
+		}
+		if i < len(text) {
+			edits = append(edits, text[:i]+text[i+1:])
+		}
+	}
+	return edits
+}
+
 // TestParseEdits takes outputs apart in every way that one byte allows, and
 // doubles and drops each of their spaces and separators.
 func TestParseEdits(t *testing.T) {
 	texts := []string{"get 0", "get 7", "put 1 0", "put 7 1000000", "add 3 -4", "add 0 -1000000", "add 2 5; get 0; put 2 1", "put 6 10; add 5 -99"}
-	const bytes = "0189+-;, _gputad\t\n\x00\xff"
 	for _, text := range texts {
-		checkAct(t, text)
-		checkProg(t, text)
-		for i := 0; i <= len(text); i++ {
-			edits := []string{text[:i], text[i:]}
-			for _, b := range []byte(bytes) {
-				edits = append(edits, text[:i]+string([]byte{b})+text[i:])
-				if i < len(text) {
-					edits = append(edits, text[:i]+string([]byte{b})+text[i+1:])
-				}
-			}
-			if i < len(text) {
-				edits = append(edits, text[:i]+text[i+1:])
-			}
-			for _, edit := range edits {
-				checkAct(t, edit)
-				checkProg(t, edit)
-			}
-		}
+		edits := append(oneByteEdits(text, "0189+-;, _gputad\t\n\x00\xff"), text)
 		for _, swap := range [][2]string{{"; ", ";"}, {"; ", " "}, {"; ", " ;"}, {"; ", ";; "}, {"; ", "; ; "}, {"; ", ""}, {" ", "  "}, {" ", ""}} {
-			edit := strings.ReplaceAll(text, swap[0], swap[1])
+			edits = append(edits, strings.ReplaceAll(text, swap[0], swap[1]))
+		}
+		for _, edit := range edits {
 			checkAct(t, edit)
 			checkProg(t, edit)
 		}
