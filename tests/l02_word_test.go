@@ -394,8 +394,8 @@ func checkWord(t *testing.T, text string) {
 	}
 }
 
-// TestParseWordEdits takes outputs apart in every way that one or two bytes
-// allow.
+// TestParseWordEdits changes outputs by one byte, and by a second one from the
+// bytes that a word's text could go wrong with.
 func TestParseWordEdits(t *testing.T) {
 	const bytes = "01234569.*+-, e\t\n\x00\xff"
 	for _, text := range []string{"0.0", "0.0*", "1.2", "1.2*", "10.20*", "1023.65535", "1023.65535*", "102.6553", "999.9999*"} {
