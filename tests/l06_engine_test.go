@@ -97,6 +97,17 @@ func commit(text string) impl.Commit {
 	return c
 }
 
+// commits reads a log: CommitTexts that are separated by commas.
+func commits(text string) []impl.Commit {
+	var log []impl.Commit
+	for _, part := range strings.Split(text, ",") {
+		if strings.TrimSpace(part) != "" {
+			log = append(log, commit(part))
+		}
+	}
+	return log
+}
+
 // setup reads Keys, Hot, Cool, Lists as 0 or 1, and Age.
 func setup(text string) impl.Setup {
 	fields := strings.Fields(text)
@@ -127,10 +138,7 @@ func setLine(e *impl.Engine, line string) {
 	case "fails":
 		e.Fails = num(rest)
 	case "log":
-		e.Log = nil
-		for _, part := range strings.Split(rest, ",") {
-			e.Log = append(e.Log, commit(part))
-		}
+		e.Log = commits(rest)
 	default:
 		for index := num(name[1:]); len(e.Workers) <= index; {
 			e.Workers = append(e.Workers, impl.Worker{})
