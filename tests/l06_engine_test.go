@@ -772,7 +772,8 @@ const usedEngine = `setup 3 4 20 1 3
 // A change is something done to a valid engine.
 type change func(*impl.Engine)
 
-// engineBreaks holds what makes usedEngine invalid, beside its workers.
+// engineBreaks holds what makes an engine such as usedEngine invalid, beside its
+// workers.
 func engineBreaks() []change {
 	var all []change
 	for _, s := range badSetups() {
@@ -846,17 +847,19 @@ func workerBreaks() []func(*impl.Worker) {
 	return all
 }
 
-// badEngines holds engines that break one condition each.
-func badEngines() []impl.Engine {
+// brokenEngines holds engines that are base but for one condition that they
+// break. base has three keys and three workers of two programs, and a Gate that
+// is one of them.
+func brokenEngines(base string) []impl.Engine {
 	var all []impl.Engine
 	for _, change := range engineBreaks() {
-		e := engine(usedEngine)
+		e := engine(base)
 		change(&e)
 		all = append(all, e)
 	}
 	for _, change := range workerBreaks() {
 		for w := range 3 {
-			e := engine(usedEngine)
+			e := engine(base)
 			change(&e.Workers[w])
 			all = append(all, e)
 		}
@@ -865,12 +868,14 @@ func badEngines() []impl.Engine {
 		"w0 get 0 @ 0:2.1 0", "w0 get 0; get 1 @ 0:2.2 0", "w0 get 0; get 1, get 2 @ 1:2.1 0", "w0 get 0, get 1; get 2 @ 0:2.1 0", "w0 get 0 @ 0:2.9 0", "w0 get 0 @ 0:2.4294967296 0",
 		"w1 get 0 @ 0:2.1 0", "w2 get 0; get 1, get 2 @ 1:2.2 0",
 	} {
-		e := engine(usedEngine)
+		e := engine(base)
 		setLines(&e, text)
 		all = append(all, e)
 	}
 	return all
 }
+
+func badEngines() []impl.Engine { return brokenEngines(usedEngine) }
 
 func TestEngineOk(t *testing.T) {
 	good := []string{

@@ -261,9 +261,15 @@ func TestSerialOk(t *testing.T) {
 		{"log 1 w0 p0 t0 got put 0=5, 2 w3 p0 t0 got 5 put 1=7", false}, {"log 1 w0 p0 t0 got put 0=5, 2 w1 p1 t0 got 5 put 1=7", false}, {"log 1 w0 p0 t0 got put 0=5, 2 w1 p0 t0 got 5 put 1=7, 3 w2 p0 t0 got 5 put", true},
 		{"w0 add 0 6 @ 1:0.0 0", false}, {"w0 @ 0:0.0 0", false}, {"w0 put 0 5 @ 1:0.0 0", true}, {"w0 get 0, add 0 5 @ 1:0.0 0", false},
 		{"w3 put 0 9 @ 0:0.0 0", true}, {"w3 @ 0:5.0 0 puts 0=9", false},
-		// Only the values count of the table, and its cells must be the keys.
-		{"picks -1 \n gate 9 \n ids 7 \n fails -1 \n heat 0=99", true}, {"setup 2 0 100 0 0", false}, {"setup 4 0 100 0 0", false}, {"setup 0 0 100 0 0", false}, {"setup 3 -1 0 1 11", true},
-		{"cells 5 0.1* |, 0 0.0* 2w |, 0 0.0 |", false}, {"cells 5 0.1 |, 0 0.0* 2w |, 0 0.70000 |", false}, {"cells 5 0.1 |, 0 0.0* 2w |, 0 0.0 1w |", false},
+		// Only the values count of the table, whose cells are the keys, whatever
+		// the Setup and the other fields are.
+		{"picks -1 \n gate 9 \n ids 7 \n fails -1 \n heat 0=99", true}, {"setup 2 0 100 0 0", true}, {"setup 4 0 100 0 0", true}, {"setup 0 0 100 0 0", true}, {"setup 3 -1 0 1 11", true},
+		{"setup -1 0 100 0 0", true}, {"setup 9 0 100 0 0", true}, {"setup 9223372036854775807 0 100 0 0", true}, {"setup -9223372036854775808 0 100 0 0", true},
+		{"setup 2 0 100 0 0 \n cells 5 0.1 |, 0 0.0 |", true}, {"cells 5 0.1 |, 0 0.0 |", true}, {"cells 5 0.1 |", false}, {"cells 5 0.1 |, 0 0.0 |, 0 0.0 |, 0 0.0 |", true}, {"cells 5 0.1 |, 0 0.0 |, 0 0.0 |, 1 0.0 |", false},
+		{"setup 2 0 100 0 0 \n cells 5 0.1 |, 0 0.0 |, 1 0.0 |", false}, {"setup 3 0 100 0 0 \n cells 5 0.1 |, 0 0.0 |, 0 0.0 |, 1 0.0 |", false},
+		{"cells 5 0.1* |, 0 0.0* 2w |, 0 0.0 |", true}, {"cells 5 0.1 |, 0 0.0* 2w |, 0 0.70000 |", true}, {"cells 5 -1.1 |, 0 2000.-3 2w |, 0 0.0 |", true}, {"cells 5 0.1 |, 0 0.0* 2w |, 0 0.0 1w |", true},
+		{"cells 5 0.1 1w 2w | 3r 3r, 0 0.0* 2r 1r 9r |, 0 0.0 | 1w", true}, {"cells 4 0.1* |, 0 0.0* 2w |, 0 0.0 |", false}, {"cells 5 0.1 |, 0 0.0* 2w |, 1 0.70000 |", false}, {"cells 5 0.1 1w 2w |, 0 0.0 |, 2 0.0 | 1w", false},
+		{"cells 1000005 0.1 |, 0 0.0 |, 0 0.0 |", false}, {"cells 5 0.1 |, 1000007 0.0* 2w |, 0 0.0 |", true}, {"cells 5 0.1 |, 0 0.0 |, 0 0.0 | \n w2 get 0 @ 0:5.0 0 puts 2=9000000", false},
 	}
 	for _, c := range cases {
 		e := engine(loggedEngine)
@@ -288,11 +294,20 @@ func TestSerialOkOfOthers(t *testing.T) {
 	if impl.SerialOk(impl.Engine{}) {
 		t.Error("SerialOk of the zero value is true")
 	}
-	for _, n := range []int{0, 1, 9, 300} {
-		e := engine("setup 8 0 1 0 0")
-		e.Setup.Keys, e.Table.Cells = n, make([]impl.Cell, n)
-		if impl.SerialOk(e) != (n == 1) {
-			t.Errorf("SerialOk of %d cells is %v", n, n != 1)
+	for _, n := range []int{0, 1, 2, 7, 8, 9, 300} {
+		for _, keys := range append(farNumbers, n, -1, 0, 1, 8, 9) {
+			e := engine("setup 8 0 1 0 0")
+			e.Setup.Keys, e.Table.Cells = keys, make([]impl.Cell, n)
+			if ok := impl.SerialOk(e); ok != (1 <= n && n <= 8) {
+				t.Errorf("SerialOk of %d cells with Setup.Keys %d is %v", n, keys, ok)
+			}
+		}
+	}
+	for _, tb := range badTables() {
+		e := engine("setup 1 0 1 0 0")
+		e.Table = tb
+		if got := impl.SerialOk(e); got != isSerial(e) {
+			t.Errorf("SerialOk of the table %v is %v", tb, got)
 		}
 	}
 	for _, n := range []int{299, 300, 301} {

@@ -94,7 +94,7 @@ func isSerial(e impl.Engine) bool {
 			}
 		}
 	}
-	values, ok := replayed(e.Setup.Keys, s)
+	values, ok := replayed(len(e.Table.Cells), s)
 	for key, x := range values {
 		ok = ok && x == installed[key]
 	}
@@ -381,6 +381,28 @@ func editWorkers(state *uint32, e *impl.Engine) {
 	}
 }
 
+// editTable changes the Keys of the Setup, the number of cells, or what makes
+// a cell invalid beside its value.
+func editTable(state *uint32, e *impl.Engine) {
+	cells := e.Table.Cells
+	c := &cells[draw(state, len(cells))]
+	switch draw(state, 5) {
+	case 0:
+		e.Setup.Keys = draw(state, 12) - 2
+	case 1:
+		e.Table.Cells = append(cells, impl.Cell{})
+	case 2:
+		if len(cells) > 1 {
+			e.Table.Cells = cells[:len(cells)-1]
+		}
+	case 3:
+		c.Word = impl.Word{Epoch: 1024 + draw(state, 9), Seq: -draw(state, 9), Held: !c.Word.Held}
+	case 4:
+		c.Lock.Waiters = append(c.Lock.Waiters, c.Lock.Holders...)
+		c.Lock.Holders = append(c.Lock.Holders, writer(draw(state, 11)-1))
+	}
+}
+
 func TestSerialOkOfEdited(t *testing.T) {
 	state := uint32(26)
 	met := map[bool]int{}
@@ -392,6 +414,9 @@ func TestSerialOkOfEdited(t *testing.T) {
 			e := copyOfEngine(before)
 			for range draw(&state, 3) {
 				editWorkers(&state, &e)
+			}
+			for range draw(&state, 3) {
+				editTable(&state, &e)
 			}
 			met[checkedSerialOk(t, e)]++
 		}
