@@ -301,7 +301,7 @@ func TestScriptsOfAll(t *testing.T) {
 	n.atLeast(t, 1, "is no script")
 }
 
-// TestScriptEdits has every edit of one byte of a script.
+// TestScriptEdits changes one byte of a script, at every place.
 func TestScriptEdits(t *testing.T) {
 	const script = "setup 2 1 20 1 3\nprog 0 add 0 5; get 1\nprog 1 get 0\npick 0\nround 10\nworker 1\ncell 0\nlog\nvalues\nwaits\ndone\nserial\n"
 	edits := oneByteEdits(script, " 0129-;\n\xffwx")
